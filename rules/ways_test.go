@@ -1,0 +1,106 @@
+package rules
+
+import (
+	"go/ast"
+	"go/importer"
+	"go/parser"
+	"go/token"
+	"go/types"
+	"path/filepath"
+	"strings"
+	"testing"
+)
+
+const module = "tallymark"
+
+// loader types the project's packages, each once.
+type loader struct {
+	fset    *token.FileSet
+	info    *types.Info
+	library types.Importer
+	files   map[string][]*ast.File
+	done    map[string]*types.Package
+}
+
+func newLoader() *loader {
+	fset := token.NewFileSet()
+	return &loader{
+		fset:    fset,
+		info:    &types.Info{Types: map[ast.Expr]types.TypeAndValue{}, Uses: map[*ast.Ident]types.Object{}},
+		library: importer.ForCompiler(fset, "source", nil),
+		files:   map[string][]*ast.File{},
+		done:    map[string]*types.Package{},
+	}
+}
+
+func (l *loader) Import(path string) (*types.Package, error) {
+	if !strings.HasPrefix(path, module+"/") {
+		return l.library.Import(path)
+	}
+	if p := l.done[path]; p != nil {
+		return p, nil
+	}
+	names, err := filepath.Glob(filepath.Join("..", strings.TrimPrefix(path, module), "*.go"))
+	if err != nil {
+		return nil, err
+	}
+	for _, name := range names {
+		if strings.HasSuffix(name, "_test.go") {
+			continue
+		}
+		f, err := parser.ParseFile(l.fset, name, nil, 0)
+		if err != nil {
+			return nil, err
+		}
+		l.files[path] = append(l.files[path], f)
+	}
+	config := types.Config{Importer: l}
+	p, err := config.Check(path, l.fset, l.files[path], l.info)
+	l.done[path] = p
+	return p, err
+}
+
+// ways tells how often a package goes each of the ways that are looked for.
+func (l *loader) ways(t *testing.T, name string) map[string]int {
+	if _, err := l.Import(module + "/" + name); err != nil {
+		t.Fatal(err)
+	}
+	got := map[string]int{}
+	for _, f := range l.files[module+"/"+name] {
+		ast.Inspect(f, func(n ast.Node) bool {
+			switch x := n.(type) {
+			case *ast.RangeStmt:
+				if b, ok := l.info.Types[x.X].Type.Underlying().(*types.Basic); ok && b.Info()&types.IsInteger != 0 {
+					got["range-integer"]++
+				}
+			case *ast.Ellipsis:
+				if x.Elt != nil {
+					got["variadic"]++
+				}
+			case *ast.Ident:
+				if b, ok := l.info.Uses[x].(*types.Builtin); ok {
+					got[b.Name()]++
+				}
+			}
+			return true
+		})
+	}
+	return got
+}
+
+// Ways, layers 1 and 2: bytes come by ..., and are copied; groups are gone
+// through by a range over a number.
+func TestWays(t *testing.T) {
+	l := newLoader()
+	for _, x := range []struct{ name, ways string }{
+		{"bits", "variadic copy range-integer"},
+		{"codes", "range-integer"},
+	} {
+		got := l.ways(t, x.name)
+		for _, way := range strings.Fields(x.ways) {
+			if got[way] == 0 {
+				t.Errorf("%s: nothing by %s", x.name, way)
+			}
+		}
+	}
+}
