@@ -77,6 +77,10 @@ func (l *loader) ways(t *testing.T, name string) map[string]int {
 				if x.Elt != nil {
 					got["variadic"]++
 				}
+			case *ast.ArrayType:
+				if x.Len != nil {
+					got["array"]++
+				}
 			case *ast.Ident:
 				if b, ok := l.info.Uses[x].(*types.Builtin); ok {
 					got[b.Name()]++
@@ -89,12 +93,15 @@ func (l *loader) ways(t *testing.T, name string) map[string]int {
 }
 
 // Ways, layers 1 and 2: bytes come by ..., and are copied; groups are gone
-// through by a range over a number.
+// through by a range over a number. Layers 3 and 4: bytes come by ..., and are
+// turned by an array, that is made by a range over a number.
 func TestWays(t *testing.T) {
 	l := newLoader()
 	for _, x := range []struct{ name, ways string }{
 		{"bits", "variadic copy range-integer"},
 		{"codes", "range-integer"},
+		{"pack", "range-integer"},
+		{"crc", "variadic array range-integer"},
 	} {
 		got := l.ways(t, x.name)
 		for _, way := range strings.Fields(x.ways) {
