@@ -94,7 +94,8 @@ func (l *loader) ways(t *testing.T, name string) map[string]int {
 
 // Ways, layers 1 and 2: bytes come by ..., and are copied; groups are gone
 // through by a range over a number. Layers 3 and 4: bytes come by ..., and are
-// turned by an array, that is made by a range over a number.
+// turned by an array, that is made by a range over a number. Layers 5 and 6:
+// words come by ....
 func TestWays(t *testing.T) {
 	l := newLoader()
 	for _, x := range []struct{ name, ways string }{
@@ -102,6 +103,7 @@ func TestWays(t *testing.T) {
 		{"codes", "range-integer"},
 		{"pack", "range-integer"},
 		{"crc", "variadic array range-integer"},
+		{"nat", "variadic"},
 	} {
 		got := l.ways(t, x.name)
 		for _, way := range strings.Fields(x.ways) {
