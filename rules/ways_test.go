@@ -95,7 +95,7 @@ func (l *loader) ways(t *testing.T, name string) map[string]int {
 // Ways, layers 1 and 2: bytes come by ..., and are copied; groups are gone
 // through by a range over a number. Layers 3 and 4: bytes come by ..., and are
 // turned by an array, that is made by a range over a number. Layers 5 and 6:
-// words come by ....
+// words come by .... Layers 7 and 8: digits are made by a range over a number.
 func TestWays(t *testing.T) {
 	l := newLoader()
 	for _, x := range []struct{ name, ways string }{
@@ -104,6 +104,7 @@ func TestWays(t *testing.T) {
 		{"pack", "range-integer"},
 		{"crc", "variadic array range-integer"},
 		{"nat", "variadic"},
+		{"logs", "range-integer"},
 	} {
 		got := l.ways(t, x.name)
 		for _, way := range strings.Fields(x.ways) {
