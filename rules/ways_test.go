@@ -25,8 +25,12 @@ type loader struct {
 func newLoader() *loader {
 	fset := token.NewFileSet()
 	return &loader{
-		fset:    fset,
-		info:    &types.Info{Types: map[ast.Expr]types.TypeAndValue{}, Uses: map[*ast.Ident]types.Object{}},
+		fset: fset,
+		info: &types.Info{
+			Types:      map[ast.Expr]types.TypeAndValue{},
+			Uses:       map[*ast.Ident]types.Object{},
+			Selections: map[*ast.SelectorExpr]*types.Selection{},
+		},
 		library: importer.ForCompiler(fset, "source", nil),
 		files:   map[string][]*ast.File{},
 		done:    map[string]*types.Package{},
@@ -77,6 +81,16 @@ func (l *loader) ways(t *testing.T, name string) map[string]int {
 				if x.Elt != nil {
 					got["variadic"]++
 				}
+			case *ast.StructType:
+				for _, field := range x.Fields.List {
+					if len(field.Names) == 0 {
+						got["embedding"]++
+					}
+				}
+			case *ast.SelectorExpr:
+				if s := l.info.Selections[x]; s != nil && len(s.Index()) > 1 {
+					got["promoted"]++
+				}
 			case *ast.ArrayType:
 				if x.Len != nil {
 					got["array"]++
@@ -96,6 +110,8 @@ func (l *loader) ways(t *testing.T, name string) map[string]int {
 // through by a range over a number. Layers 3 and 4: bytes come by ..., and are
 // turned by an array, that is made by a range over a number. Layers 5 and 6:
 // words come by .... Layers 7 and 8: digits are made by a range over a number.
+// Layers 9 and 10: a tape embeds where it is, whose fields are its own by
+// promotion; coins come by ..., and are asked by a range over a number.
 func TestWays(t *testing.T) {
 	l := newLoader()
 	for _, x := range []struct{ name, ways string }{
@@ -105,6 +121,8 @@ func TestWays(t *testing.T) {
 		{"crc", "variadic array range-integer"},
 		{"nat", "variadic"},
 		{"logs", "range-integer"},
+		{"tape", "embedding promoted variadic"},
+		{"flip", "range-integer"},
 	} {
 		got := l.ways(t, x.name)
 		for _, way := range strings.Fields(x.ways) {
