@@ -77,6 +77,8 @@ func (l *loader) ways(t *testing.T, name string) map[string]int {
 				if b, ok := l.info.Types[x.X].Type.Underlying().(*types.Basic); ok && b.Info()&types.IsInteger != 0 {
 					got["range-integer"]++
 				}
+			case *ast.LabeledStmt:
+				got["label"]++
 			case *ast.Ellipsis:
 				if x.Elt != nil {
 					got["variadic"]++
@@ -111,7 +113,9 @@ func (l *loader) ways(t *testing.T, name string) map[string]int {
 // turned by an array, that is made by a range over a number. Layers 5 and 6:
 // words come by .... Layers 7 and 8: digits are made by a range over a number.
 // Layers 9 and 10: a tape embeds where it is, whose fields are its own by
-// promotion; coins come by ..., and are asked by a range over a number.
+// promotion; coins come by ..., and are asked by a range over a number. Layers
+// 11 and 12: what is too great is drawn again by a label; places come by ...,
+// coins by a range over a number.
 func TestWays(t *testing.T) {
 	l := newLoader()
 	for _, x := range []struct{ name, ways string }{
@@ -123,6 +127,8 @@ func TestWays(t *testing.T) {
 		{"logs", "range-integer"},
 		{"tape", "embedding promoted variadic"},
 		{"flip", "range-integer"},
+		{"draw", "label range-integer"},
+		{"morris", "variadic"},
 	} {
 		got := l.ways(t, x.name)
 		for _, way := range strings.Fields(x.ways) {
