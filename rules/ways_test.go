@@ -74,9 +74,16 @@ func (l *loader) ways(t *testing.T, name string) map[string]int {
 		ast.Inspect(f, func(n ast.Node) bool {
 			switch x := n.(type) {
 			case *ast.RangeStmt:
-				if b, ok := l.info.Types[x.X].Type.Underlying().(*types.Basic); ok && b.Info()&types.IsInteger != 0 {
-					got["range-integer"]++
+				switch y := l.info.Types[x.X].Type.Underlying().(type) {
+				case *types.Basic:
+					if y.Info()&types.IsInteger != 0 {
+						got["range-integer"]++
+					}
+				case *types.Signature:
+					got["range-function"]++
 				}
+			case *ast.FuncLit:
+				got["closure"]++
 			case *ast.LabeledStmt:
 				got["label"]++
 			case *ast.Ellipsis:
@@ -115,7 +122,8 @@ func (l *loader) ways(t *testing.T, name string) map[string]int {
 // Layers 9 and 10: a tape embeds where it is, whose fields are its own by
 // promotion; coins come by ..., and are asked by a range over a number. Layers
 // 11 and 12: what is too great is drawn again by a label; places come by ...,
-// coins by a range over a number.
+// coins by a range over a number. Layers 13 and 14: places are gone through by a
+// range over a function, which is made as a closure; places come by ....
 func TestWays(t *testing.T) {
 	l := newLoader()
 	for _, x := range []struct{ name, ways string }{
@@ -129,6 +137,8 @@ func TestWays(t *testing.T) {
 		{"flip", "range-integer"},
 		{"draw", "label range-integer"},
 		{"morris", "variadic"},
+		{"float", "variadic"},
+		{"yu", "range-function closure variadic"},
 	} {
 		got := l.ways(t, x.name)
 		for _, way := range strings.Fields(x.ways) {
