@@ -90,6 +90,10 @@ func (l *loader) ways(t *testing.T, name string) map[string]int {
 				if x.Elt != nil {
 					got["variadic"]++
 				}
+			case *ast.InterfaceType:
+				if len(x.Methods.List) > 0 {
+					got["interface"]++
+				}
 			case *ast.StructType:
 				for _, field := range x.Fields.List {
 					if len(field.Names) == 0 {
@@ -97,16 +101,25 @@ func (l *loader) ways(t *testing.T, name string) map[string]int {
 					}
 				}
 			case *ast.SelectorExpr:
-				if s := l.info.Selections[x]; s != nil && len(s.Index()) > 1 {
+				s := l.info.Selections[x]
+				if s != nil && len(s.Index()) > 1 {
 					got["promoted"]++
+				}
+				if s != nil && types.IsInterface(s.Recv()) {
+					got["interface-call"]++
 				}
 			case *ast.ArrayType:
 				if x.Len != nil {
 					got["array"]++
 				}
 			case *ast.Ident:
-				if b, ok := l.info.Uses[x].(*types.Builtin); ok {
-					got[b.Name()]++
+				switch y := l.info.Uses[x].(type) {
+				case *types.Builtin:
+					got[y.Name()]++
+				case *types.Const:
+					if y == types.Universe.Lookup("iota") {
+						got["iota"]++
+					}
 				}
 			}
 			return true
@@ -123,7 +136,9 @@ func (l *loader) ways(t *testing.T, name string) map[string]int {
 // promotion; coins come by ..., and are asked by a range over a number. Layers
 // 11 and 12: what is too great is drawn again by a label; places come by ...,
 // coins by a range over a number. Layers 13 and 14: places are gone through by a
-// range over a function, which is made as a closure; places come by ....
+// range over a function, which is made as a closure; places come by .... Layers
+// 15 and 16: kinds are an interface, whose calls step, counted by iota; a step is
+// handed in as a function; states come by ....
 func TestWays(t *testing.T) {
 	l := newLoader()
 	for _, x := range []struct{ name, ways string }{
@@ -139,6 +154,8 @@ func TestWays(t *testing.T) {
 		{"morris", "variadic"},
 		{"float", "variadic"},
 		{"yu", "range-function closure variadic"},
+		{"chain", "interface interface-call iota closure variadic"},
+		{"thin", "closure variadic"},
 	} {
 		got := l.ways(t, x.name)
 		for _, way := range strings.Fields(x.ways) {
